@@ -1,0 +1,136 @@
+package concord_test
+
+import (
+	"bytes"
+	"slices"
+	"strings"
+	"testing"
+
+	"concord/api"
+	"concord/concord"
+)
+
+// spoil writes into a list and into its spare room.
+func spoil[T any](list []T, with T) {
+	list = list[:cap(list)]
+	for i := range list {
+		list[i] = with
+	}
+}
+
+// withRoom is s, with spare room behind it that is filled.
+func withRoom[T any](s []T, fill T) []T {
+	b := slices.Concat(s, slices.Repeat([]T{fill}, 60))
+	return b[:len(s)]
+}
+
+func TestFrameGivesNewMemory(t *testing.T) {
+	for _, p := range goodPackets() {
+		first, _ := concord.Frame(p)
+		second, _ := concord.Frame(p)
+		spoil(first, '!')
+		if string(second) != frameBy(p) {
+			t.Errorf("P2: a frame changed with the one ahead of it: %x", second)
+		}
+		spoil(second, '?')
+		if third, _ := concord.Frame(p); string(third) != frameBy(p) {
+			t.Errorf("P2: a frame hangs on what was written into those ahead of it: %x", third)
+		}
+		if !slices.Equal(first, bytes.Repeat([]byte("!"), len(first))) {
+			t.Errorf("P2: a frame was written into by later calls: %x", first)
+		}
+	}
+}
+
+func TestUnframeLeavesInputAlone(t *testing.T) {
+	ins := []string{"", "}", "~", "\x05\x01\x77\x01", "\x05\x01\x77\x02", "\x05\x01\x77\x01}", innerBy(0, 1, "x"), strings.Repeat("}x", 45)}
+	for _, p := range goodPackets() {
+		ins = append(ins, innerBy(p.Code, p.ID, p.Data))
+	}
+	for _, in := range ins {
+		for _, fill := range []byte{'!', api.Flag, api.Escape} {
+			b := withRoom([]byte(in), fill)
+			kept := slices.Clone(b[:cap(b)])
+			p, e := concord.Unframe(b)
+			if !slices.Equal(b[:cap(b)], kept) {
+				t.Errorf("P2: Unframe(%x) wrote into what it was given: %x", in, b[:cap(b)])
+			}
+			if q, f := unframeBy(in); p != q || e != f {
+				t.Errorf("P2: Unframe(%x) hangs on the spare room: %#v, %d", in, p, e)
+			}
+		}
+	}
+}
+
+func TestUnframeKeepsNothing(t *testing.T) {
+	in := []byte(innerBy(9, 7, "hello"))
+	p, _ := concord.Unframe(in)
+	spoil(in, 'z')
+	q, _ := concord.Unframe([]byte(innerBy(9, 8, "other")))
+	if p != (api.Packet{Code: 9, ID: 7, Data: "hello"}) || q != (api.Packet{Code: 9, ID: 8, Data: "other"}) {
+		t.Errorf("P2: a packet shares memory with what it was read from, or with another: %#v, %#v", p, q)
+	}
+}
+
+// TestUnframeForgets: no call's answer hangs on the calls ahead of it.
+func TestUnframeForgets(t *testing.T) {
+	for _, ahead := range []string{"", "}", "\x05\x01\x77", "~", "\x05\x01\x77\x02", innerBy(0, 1, "x")} {
+		concord.Unframe([]byte(ahead))
+		holdUnframe(t, "\x05\x01\x77\x01")
+	}
+}
+
+func TestNewLeavesInputAlone(t *testing.T) {
+	for _, turn := range []func(c *api.Config){
+		func(c *api.Config) {},
+		func(c *api.Config) { c.Magic = 0 },
+		func(c *api.Config) { c.Want[1] = []int{9, 3, 9} },
+		func(c *api.Config) { c.Accept[2] = []int{8, 7, 6, 5, 4, 3, 2, 1} },
+		func(c *api.Config) { c.Accept[2] = []int{9, 8, 7, 6, 5, 4, 3, 2, 1} },
+	} {
+		c := goodConfig()
+		turn(&c)
+		var lists, kept [6][]int
+		for i := range 3 {
+			c.Want[i], c.Accept[i] = withRoom(c.Want[i], -4), withRoom(c.Accept[i], -5)
+			lists[i], lists[i+3] = c.Want[i], c.Accept[i]
+		}
+		for i, list := range lists {
+			kept[i] = slices.Clone(list[:cap(list)])
+		}
+		concord.New(c)
+		for i, list := range lists {
+			if !slices.Equal(list[:cap(list)], kept[i]) {
+				t.Errorf("P2: New wrote into list %d: %v, was %v", i, list[:cap(list)], kept[i])
+			}
+		}
+	}
+}
+
+func TestNewKeepsNothing(t *testing.T) {
+	c := goodConfig()
+	e := mustMake(t, c)
+	for i := range 3 {
+		spoil(c.Want[i], -1)
+		spoil(c.Accept[i], -1)
+	}
+	if f := mustMake(t, goodConfig()); e == f {
+		t.Error("P2: two ends are one")
+	}
+	if e.State() != api.Initial {
+		t.Errorf("P2: the state is %d behind writing into what New was given", e.State())
+	}
+}
+
+// TestAskingChangesNothing: State, Told and Agreed, of a new end, any number of times.
+func TestAskingChangesNothing(t *testing.T) {
+	e := mustMake(t, goodConfig())
+	for range 3 {
+		told := e.Told()
+		asked, agreed := e.Agreed()
+		if len(told) != 0 || asked != (api.Terms{}) || agreed != (api.Terms{}) || e.State() != api.Initial {
+			t.Errorf("P2: a new end that was only asked: %d, %v, %v, %v", e.State(), told, asked, agreed)
+		}
+		spoil(told, 9)
+	}
+}
