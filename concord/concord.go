@@ -3,6 +3,7 @@ package concord
 
 import (
 	"errors"
+	"slices"
 
 	"concord/api"
 	"concord/line"
@@ -39,7 +40,13 @@ func errnoOf(err error) api.Errno {
 
 // End is the end of a link.
 type End struct {
-	state int
+	wishes
+	state   int
+	counter int
+	timer   int
+	id      byte // of the last Request or End that was sent
+	told    []int
+	sent    []byte // by the call that is under way
 }
 
 // New makes an end (P5).
@@ -47,11 +54,14 @@ func New(c api.Config) (*End, api.Errno) {
 	if !terms.IsConfig(c) {
 		return nil, api.ErrConfig
 	}
-	return &End{state: api.Initial}, api.OK
+	return &End{wishes: wishesOf(c), state: api.Initial}, api.OK
 }
 
 // Event tells an end something; what it sends (P7).
-func (e *End) Event(kind int) []byte { return nil }
+func (e *End) Event(kind int) []byte {
+	e.do(e.at(kind))
+	return e.takeSent()
+}
 
 // Bytes gives an end bytes from the line; what it sends (P6, P8).
 func (e *End) Bytes(b []byte) []byte { return nil }
@@ -60,7 +70,7 @@ func (e *End) Bytes(b []byte) []byte { return nil }
 func (e *End) State() int { return e.state }
 
 // Told tells all that the end has told so far (P7).
-func (e *End) Told() []int { return nil }
+func (e *End) Told() []int { return slices.Clone(e.told) }
 
 // Agreed tells the terms on which the other end agreed, and those on which this end did (P9).
 func (e *End) Agreed() (api.Terms, api.Terms) { return api.Terms{}, api.Terms{} }

@@ -109,16 +109,103 @@ func TestNewLeavesInputAlone(t *testing.T) {
 
 func TestNewKeepsNothing(t *testing.T) {
 	c := goodConfig()
+	data := requestBy(c)
 	e := mustMake(t, c)
 	for i := range 3 {
-		spoil(c.Want[i], -1)
-		spoil(c.Accept[i], -1)
+		spoil(c.Want[i], 99)
+		spoil(c.Accept[i], 99)
 	}
 	if f := mustMake(t, goodConfig()); e == f {
 		t.Error("P2: two ends are one")
 	}
 	if e.State() != api.Initial {
 		t.Errorf("P2: the state is %d behind writing into what New was given", e.State())
+	}
+	mustDo(t, e, api.Up, api.Closed, "")
+	mustDo(t, e, api.Open, api.ReqSent, requestFrame(1, data))
+	want, accept := concord.Lists(e)
+	for i := range 3 {
+		if !slices.Equal(want[i], goodConfig().Want[i]) || !slices.Equal(accept[i], goodConfig().Accept[i]) {
+			t.Errorf("P2: the end's lists are %v, %v behind writing into what New was given", want[i], accept[i])
+		}
+	}
+}
+
+// TestEndsAreApart: two ends of one configuration, told in turn, and what came out of each written into.
+func TestEndsAreApart(t *testing.T) {
+	c := goodConfig()
+	e, f := mustMake(t, c), mustMake(t, c)
+	m, n := modelOf(c), modelOf(c)
+	for i := range 60 {
+		step(t, e, m, []int{api.Up, api.Open, api.Tick, api.Tick, api.Close}[i%5], i)
+		spoil(e.Told(), 9)
+		step(t, f, n, []int{api.Open, api.Up, api.Down}[i%3], i)
+		spoil(f.Told(), 9)
+	}
+}
+
+// TestEventGivesNewMemory: the owner of what was sent writes into it and behind it.
+func TestEventGivesNewMemory(t *testing.T) {
+	c := goodConfig()
+	e, m := starting(t, c), modelOf(c)
+	m.event(api.Open)
+	var all [][]byte
+	for i := range 90 {
+		kind := []int{api.Up, api.Tick, api.Tick, api.Tick, api.Close, api.Down, api.Open}[i%7]
+		if got, want := e.Event(kind), m.event(kind); string(got) != want {
+			t.Fatalf("P2: what is sent hangs on what was written into what was sent: %x, want %x", got, want)
+		} else if len(got) > 0 {
+			spoil(got, byte(i))
+			all = append(all, slices.Clone(got), got)
+		}
+	}
+	if len(all) < 40 {
+		t.Fatalf("this test sends only %d times", len(all)/2)
+	}
+	for i := 0; i < len(all); i += 2 {
+		if !slices.Equal(all[i], all[i+1]) {
+			t.Errorf("P2: what was sent was written into by later calls: %x, was %x", all[i+1], all[i])
+		}
+	}
+}
+
+// TestToldGivesNewMemory: the spare room too, in which the end might put what it tells next.
+func TestToldGivesNewMemory(t *testing.T) {
+	e := mustMake(t, goodConfig())
+	var want []int
+	for i := range 40 {
+		early := e.Told()
+		e.Event([]int{api.Open, api.Close}[i%2])
+		want = append(want, []int{api.Begins, api.Finished}[i%2])
+		spoil(early, -7)
+		late, later := e.Told(), e.Told()
+		spoil(late, -8)
+		if !slices.Equal(later, want) {
+			t.Fatalf("P2: two answers of Told share memory: %v, want %v", later, want)
+		}
+		mustTell(t, e, want...)
+		if slices.Contains(early, -8) {
+			t.Fatalf("P2: an earlier answer of Told was written into: %v", early)
+		}
+	}
+}
+
+// TestAskingBetweenEvents: an end that is asked does what one does that is not.
+func TestAskingBetweenEvents(t *testing.T) {
+	c := goodConfig()
+	asked, left := mustMake(t, c), mustMake(t, c)
+	for i := range 500 {
+		kind := []int{api.Open, api.Up, api.Tick, api.Tick, api.Tick, api.Close, api.Tick, api.Tick, api.Tick, api.Down, 6}[i%11]
+		asked.State()
+		asked.Told()
+		asked.Agreed()
+		got, want := string(asked.Event(kind)), string(left.Event(kind))
+		if got != want {
+			t.Fatalf("P2: an end that was asked sends %x, one that was not %x", got, want)
+		}
+	}
+	if !slices.Equal(asked.Told(), left.Told()) || asked.State() != left.State() {
+		t.Errorf("P2: an end that was asked: %d, %v; one that was not: %d, %v", asked.State(), asked.Told(), left.State(), left.Told())
 	}
 }
 

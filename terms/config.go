@@ -1,4 +1,4 @@
-// Package terms: what an end wishes and accepts.
+// Package terms: what an end may wish and accept, and how packets say it.
 package terms
 
 import (
