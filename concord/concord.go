@@ -41,12 +41,19 @@ func errnoOf(err error) api.Errno {
 // End is the end of a link.
 type End struct {
 	wishes
-	state   int
-	counter int
-	timer   int
-	id      byte // of the last Request or End that was sent
-	told    []int
-	sent    []byte // by the call that is under way
+	state     int
+	counter   int
+	timer     int
+	id        byte       // of the last Request or End that was sent
+	unknownID byte       // of the last Unknown that was sent
+	last      api.Packet // the last Request that was sent; its Code is 0 if none was
+	proposed  api.Terms  // of that one
+	accepted  api.Terms  // of the last Request that an Ack was sent for
+	naks      int        // that were sent since the last Ack and the last IsUp
+	turns     int        // of Requests with a magic of this end, where each gets a Nak
+	told      []int
+	gathered  []byte // from the line, since the last flag
+	sent      []byte // by the call that is under way
 }
 
 // New makes an end (P5).
@@ -64,7 +71,12 @@ func (e *End) Event(kind int) []byte {
 }
 
 // Bytes gives an end bytes from the line; what it sends (P6, P8).
-func (e *End) Bytes(b []byte) []byte { return nil }
+func (e *End) Bytes(b []byte) []byte {
+	for _, c := range b {
+		e.take(c)
+	}
+	return e.takeSent()
+}
 
 // State tells the state (P7).
 func (e *End) State() int { return e.state }
@@ -73,4 +85,4 @@ func (e *End) State() int { return e.state }
 func (e *End) Told() []int { return slices.Clone(e.told) }
 
 // Agreed tells the terms on which the other end agreed, and those on which this end did (P9).
-func (e *End) Agreed() (api.Terms, api.Terms) { return api.Terms{}, api.Terms{} }
+func (e *End) Agreed() (api.Terms, api.Terms) { return e.proposed, e.accepted }

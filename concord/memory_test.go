@@ -2,6 +2,7 @@ package concord_test
 
 import (
 	"bytes"
+	"math/rand"
 	"slices"
 	"strings"
 	"testing"
@@ -123,12 +124,10 @@ func TestNewKeepsNothing(t *testing.T) {
 	}
 	mustDo(t, e, api.Up, api.Closed, "")
 	mustDo(t, e, api.Open, api.ReqSent, requestFrame(1, data))
-	want, accept := concord.Lists(e)
-	for i := range 3 {
-		if !slices.Equal(want[i], goodConfig().Want[i]) || !slices.Equal(accept[i], goodConfig().Accept[i]) {
-			t.Errorf("P2: the end's lists are %v, %v behind writing into what New was given", want[i], accept[i])
-		}
-	}
+	// neither is 99 accepted, nor is it wished
+	mustHear(t, e, ask(9, 99, 99, 99, 8), api.ReqSent, nak(9, 5, 5, 5))
+	mustHear(t, e, ask(9, 6, 6, 6, 8), api.AckSent, ack(9, 6, 6, 6, 8))
+	mustHear(t, e, nak(1, 99, 99, 99), api.AckSent, requestFrame(2, data))
 }
 
 // TestEndsAreApart: two ends of one configuration, told in turn, and what came out of each written into.
@@ -169,6 +168,88 @@ func TestEventGivesNewMemory(t *testing.T) {
 	}
 }
 
+// TestBytesLeavesInputAlone: what is handed in, and its spare room, which holds what would be heard.
+func TestBytesLeavesInputAlone(t *testing.T) {
+	spare := []byte(frame(5, 1, "") + frame(5, 1, ""))
+	for _, in := range append(noFrames(), frame(1, 9, itemsBy(5, 5, 5, 8)), frame(1, 9, itemsBy(4, 5, 5, 7)), frame(11, 3, strings.Repeat("~}", 20)), frame(2, 1, requestBy(goodConfig()))) {
+		c := goodConfig()
+		e, m := asking(t, c), modelOf(c)
+		m.event(api.Open)
+		m.event(api.Up)
+		whole := slices.Concat([]byte(in), spare)
+		kept := slices.Clone(whole)
+		got, want := string(e.Bytes(whole[:len(in)])), m.bytes(in)
+		if !slices.Equal(whole, kept) {
+			t.Errorf("P2: Bytes(%x) wrote into what it was given", in)
+		}
+		if got != want || !isLike(e, m) {
+			t.Errorf("P2: Bytes(%x) hangs on the spare room: %x, want %x", in, got, want)
+		}
+	}
+}
+
+// TestBytesKeepsNothing: a piece of a frame is written into when it was taken, and when the rest was.
+func TestBytesKeepsNothing(t *testing.T) {
+	in := frame(1, 9, itemsBy(6, 5, 6, 8))
+	for cut := range len(in) {
+		e := asking(t, goodConfig())
+		first, second := withRoom([]byte(in[:cut]), '~'), withRoom([]byte(in[cut:]), '~')
+		e.Bytes(first)
+		spoil(first, 'x')
+		if got := string(e.Bytes(second)); got != frame(2, 9, itemsBy(6, 5, 6, 8)) {
+			t.Fatalf("P2: what was gathered hangs on what was written into it: %x", got)
+		}
+		spoil(second, 'x')
+		if _, agreed := e.Agreed(); agreed != (api.Terms{6, 5, 6}) {
+			t.Fatalf("P2: the terms hang on what was written into what was heard: %v", agreed)
+		}
+		mustHear(t, e, frame(2, 1, requestBy(goodConfig())), api.Opened)
+	}
+}
+
+// TestBytesGivesNewMemory: the owner of what was sent writes into it and behind it.
+func TestBytesGivesNewMemory(t *testing.T) {
+	source := rand.New(rand.NewSource(2))
+	c := someConfig(source)
+	e, m := mustMake(t, c), modelOf(c)
+	w := walker{source, m, even}
+	for _, kind := range []int{api.Open, api.Up} {
+		spoil(e.Event(kind), 'x')
+		m.event(kind)
+	}
+	var all [][]byte
+	for i := range 2000 {
+		in := w.bytes()
+		if got, want := e.Bytes([]byte(in)), m.bytes(in); string(got) != want || !isLike(e, m) {
+			t.Fatalf("P2: what is sent hangs on what was written into what was sent: %x, want %x", got, want)
+		} else if len(got) > 0 {
+			spoil(got, byte(i))
+			all = append(all, slices.Clone(got), got)
+		}
+	}
+	if len(all) < 400 {
+		t.Fatalf("this test sends only %d times", len(all)/2)
+	}
+	for i := 0; i < len(all); i += 2 {
+		if !slices.Equal(all[i], all[i+1]) {
+			t.Errorf("P2: what was sent was written into by later calls: %x, was %x", all[i+1], all[i])
+		}
+	}
+}
+
+// TestEndsHearApart: what one of two ends hears and is told is nothing to the other.
+func TestEndsHearApart(t *testing.T) {
+	source := rand.New(rand.NewSource(6))
+	c := someConfig(source)
+	e, f := mustMake(t, c), mustMake(t, c)
+	m, n := modelOf(c), modelOf(c)
+	v, w := walker{source, m, looped}, walker{source, n, refused}
+	for i := range 1000 {
+		v.step(t, e, i)
+		w.step(t, f, i)
+	}
+}
+
 // TestToldGivesNewMemory: the spare room too, in which the end might put what it tells next.
 func TestToldGivesNewMemory(t *testing.T) {
 	e := mustMake(t, goodConfig())
@@ -200,6 +281,9 @@ func TestAskingBetweenEvents(t *testing.T) {
 		asked.Told()
 		asked.Agreed()
 		got, want := string(asked.Event(kind)), string(left.Event(kind))
+		in := []byte(frameBy(cellPackets()[i%5]))
+		asked.Agreed()
+		got, want = got+string(asked.Bytes(in)), want+string(left.Bytes(in))
 		if got != want {
 			t.Fatalf("P2: an end that was asked sends %x, one that was not %x", got, want)
 		}

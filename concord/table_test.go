@@ -2,7 +2,6 @@ package concord_test
 
 import (
 	"math/rand"
-	"slices"
 	"strings"
 	"testing"
 
@@ -10,152 +9,101 @@ import (
 	"concord/concord"
 )
 
-// table is the document's, as it stands there.
-const table = `
-| | Initial | Starting | Closed | Stopped | Closing | Stopping | ReqSent | AckRcvd | AckSent | Opened |
-| Up | Closed | irc scr ReqSent | - | - | - | - | - | - | - | - |
-| Down | - | - | Initial | tls Starting | Initial | Starting | Starting | Starting | Starting | tld Starting |
-| Open | tls Starting | - | irc scr ReqSent | - | Stopping | - | - | - | - | - |
-| Close | - | tlf Initial | - | Closed | - | Closing | irt str Closing | irt str Closing | irt str Closing | tld irt str Closing |
-| TO+ | - | - | - | - | str | str | scr | scr ReqSent | scr | - |
-| TO- | - | - | - | - | tlf Closed | tlf Stopped | tlf Stopped | tlf Stopped | tlf Stopped | - |
-`
-
-// rows: of each row its cells, the first one that of the state 0; and the names of the states under "".
-var rows = cells()
-
-func cells() map[string][]string {
-	rows := map[string][]string{}
-	for _, row := range strings.Split(strings.TrimSpace(table), "\n") {
-		list := strings.Split(strings.Trim(row, "| "), " | ")
-		if len(rows) == 0 {
-			rows[""] = list
-		} else {
-			rows[list[0]] = list[1:]
-		}
-	}
-	return rows
-}
-
-// model is an end that reads the document's table.
-type model struct {
-	state, counter, timer int
-	data                  string // of a Request
-	told                  []int
-	sent                  string // at the last event
-	all                   int    // packets that were sent
-}
-
-func modelOf(c api.Config) *model {
-	return &model{data: requestBy(c)}
-}
-
-// requestBy is the data of a Request of an end that was told events alone.
-func requestBy(c api.Config) string {
-	b := []byte{1, byte(c.Want[0][0]), 0, 2, byte(c.Want[1][0]), 0, 3, byte(c.Want[2][0]), 0}
-	return string(append(b, 4, byte(c.Magic%256), byte(c.Magic/256)))
-}
-
-func (m *model) event(kind int) string {
-	m.sent = ""
-	names := map[int]string{1: "Up", 2: "Down", 3: "Open", 4: "Close"}
-	if name := names[kind]; name != "" {
-		m.row(name)
-	} else if kind == 5 {
-		m.tick()
-	}
-	return m.sent
-}
-
-func (m *model) tick() {
-	if m.state < 4 || m.state > 8 || m.timer <= 0 {
-		return
-	}
-	m.timer--
-	if m.timer == 0 && m.counter > 0 {
-		m.row("TO+")
-	} else if m.timer == 0 {
-		m.row("TO-")
-	}
-}
-
-func (m *model) row(name string) {
-	for _, word := range strings.Fields(rows[name][m.state]) {
-		m.word(word)
-	}
-}
-
-func (m *model) word(word string) {
-	switch word {
-	case "-":
-	case "tlu", "tld", "tls", "tlf":
-		m.told = append(m.told, 1+slices.Index([]string{"tlu", "tld", "tls", "tlf"}, word))
-	case "irc":
-		m.counter = 5
-	case "irt":
-		m.counter = 2
-	case "scr":
-		m.counted(1, m.data)
-	case "str":
-		m.counted(5, "")
-	default:
-		m.state = slices.Index(rows[""], word)
-	}
-}
-
-func (m *model) counted(code int, data string) {
-	m.counter--
-	m.timer = 3
-	m.all++
-	m.sent += frameBy(api.Packet{Code: code, ID: m.all % 256, Data: data})
-}
-
-func TestTableIsWhole(t *testing.T) {
-	if len(rows) != 7 {
-		t.Errorf("the table of this test has %d rows", len(rows))
-	}
-	for name, row := range rows {
-		if len(row) != 10 {
-			t.Errorf("the row %q of this test has %d cells", name, len(row))
+// eachStanding gives all kinds of counters and timers.
+func eachStanding(hold func(counter, timer int)) {
+	for _, counter := range []int{-1 << 60, -1, 0, 1, 2, 3, 5} {
+		for timer := range 4 {
+			hold(counter, timer)
 		}
 	}
 }
 
-// step tells both the same, and holds one against the other.
-func step(t *testing.T, e *concord.End, m *model, kind int, ahead any) {
+// put lays both into a state, with a counter and a timer.
+func put(e *concord.End, m *model, state, counter, timer int) {
+	concord.Put(e, state, counter, timer)
+	m.state, m.counter, m.timer = state, counter, timer
+}
+
+// tickOn shows what counter and timer have become.
+func tickOn(t *testing.T, e *concord.End, m *model, ahead any) {
 	t.Helper()
-	from := m.state
-	want := m.event(kind)
-	got := string(e.Event(kind))
-	if got != want || e.State() != m.state || !slices.Equal(e.Told(), m.told) {
-		t.Fatalf("P7: %v, then in the state %d the event %d: sent %x, told %v, state %d; want %x, %v, %d", ahead, from, kind, got, e.Told(), e.State(), want, m.told, m.state)
+	for range 30 {
+		step(t, e, m, api.Tick, ahead)
 	}
 }
 
-// TestEveryCell: each event in each state, with counters and timers of all kinds.
+// TestEveryCell: each event in each state.
 func TestEveryCell(t *testing.T) {
 	for state := range 10 {
 		for kind := range 7 {
-			for _, counter := range []int{-1 << 60, -1, 0, 1, 2, 3, 5} {
-				for timer := range 4 {
-					holdCell(t, kind, state, counter, timer)
-				}
-			}
+			eachStanding(func(counter, timer int) {
+				c := goodConfig()
+				e, m := mustMake(t, c), modelOf(c)
+				put(e, m, state, counter, timer)
+				ahead := []int{kind, state, counter, timer}
+				step(t, e, m, kind, ahead)
+				tickOn(t, e, m, ahead)
+			})
 		}
 	}
 }
 
-// holdCell: one event, and ticks behind it: these show what counter and timer have become.
-func holdCell(t *testing.T, kind, state, counter, timer int) {
-	t.Helper()
-	c := goodConfig()
-	e, m := mustMake(t, c), modelOf(c)
-	concord.Put(e, state, counter, timer)
-	m.state, m.counter, m.timer = state, counter, timer
-	ahead := []int{kind, state, counter, timer}
-	step(t, e, m, kind, ahead)
-	for range 30 {
-		step(t, e, m, api.Tick, ahead)
+// cellPackets: of each row that packets lead to at least one, of an end that has sent its Request 1.
+func cellPackets() []api.Packet {
+	own := requestBy(goodConfig())
+	list := []api.Packet{
+		{Code: 1, ID: 9, Data: itemsBy(5, 6, 5, 8)},
+		{Code: 1, ID: 9, Data: itemsBy(5, 7, 9, 8)},
+		{Code: 1, ID: 9, Data: own},
+		{Code: 2, ID: 1, Data: own},
+		{Code: 3, ID: 1, Data: itemsBy(5, -1, 6, 1)},
+		{Code: 5, ID: 200}, {Code: 5, ID: 0, Data: "why"},
+		{Code: 6, ID: 1}, {Code: 6, ID: 77, Data: "x"},
+		{Code: 9, ID: 3, Data: "hello"}, {Code: 9, ID: 0},
+		{Code: 10, ID: 3, Data: "hello"}, {Code: 10},
+		{Code: 7, ID: 1},
+	}
+	for first := range 256 {
+		list = append(list, api.Packet{Code: 7, ID: 1, Data: string([]byte{byte(first), 1, 1})[:1+first%3]})
+	}
+	for code := 1; code <= 255; code++ {
+		list = append(list, api.Packet{Code: code, ID: code * 7 % 256}, api.Packet{Code: code, ID: 4, Data: "data"})
+	}
+	return list
+}
+
+// TestEveryCellOfPackets: each packet in each state, whether a Request was sent ahead or not, and with counters and timers of all kinds where it is one of each row.
+func TestEveryCellOfPackets(t *testing.T) {
+	seen := map[cell]int{}
+	for i, p := range cellPackets() {
+		for state := range 10 {
+			eachStanding(func(counter, timer int) {
+				if i > 30 && (counter != 2 || timer != 2) {
+					return
+				}
+				for _, ahead := range [][]int{nil, {api.Open, api.Up}} {
+					c := goodConfig()
+					e, m := mustMake(t, c), modelOf(c)
+					for _, kind := range ahead {
+						step(t, e, m, kind, ahead)
+					}
+					put(e, m, state, counter, timer)
+					hear(t, e, m, frameBy(p), []any{ahead, state, counter, timer, p})
+					hear(t, e, m, frameBy(p), []any{ahead, state, counter, timer, p})
+					tickOn(t, e, m, p)
+					for k, n := range m.seen {
+						seen[k] += n
+					}
+				}
+			})
+		}
+	}
+	for name := range rows {
+		for state := range 10 {
+			if strings.HasPrefix(name, "R") && seen[cell{name, state}] == 0 {
+				t.Errorf("this test does not come to the row %s in the state %d", name, state)
+			}
+		}
 	}
 }
 

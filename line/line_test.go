@@ -71,6 +71,20 @@ func TestWriteAndRead(t *testing.T) {
 	}
 }
 
+// TestMaxEscaped: the longest content, each of its bytes escaped, is read; with a byte more it is none.
+func TestMaxEscaped(t *testing.T) {
+	longest := strings.Repeat("}x", line.MaxEscaped/2)
+	if _, err := line.Read([]byte(longest)); !errors.Is(err, line.ErrSum) || line.MaxEscaped != 88 {
+		t.Errorf("Read of %d bytes: %v, want %v", len(longest), err, line.ErrSum)
+	}
+	for _, more := range []string{longest + "x", "x" + longest, longest + "}"} {
+		var frame *line.FrameError
+		if _, err := line.Read([]byte(more)); !errors.As(err, &frame) {
+			t.Errorf("Read of %d bytes: %v, want that they are no frame", len(more), err)
+		}
+	}
+}
+
 func TestIsPacket(t *testing.T) {
 	for _, c := range []struct {
 		p    api.Packet

@@ -3,6 +3,9 @@ package line
 
 import "concord/api"
 
+// MaxEscaped is the most bytes that a packet has between its flags: each byte of its content escaped.
+const MaxEscaped = 2 * maxContent
+
 const (
 	maxByte    = 255
 	headSize   = 2 // Code and ID
